@@ -328,6 +328,10 @@ func TestAllShortLists(t *testing.T) {
 	var grow func(list []impl.Token)
 	grow = func(list []impl.Token) {
 		checkStream(t, list)
+		if expectedOf(list).ok {
+			checkPromise(t, list)
+			checkWrapped(t, list, true, 1)
+		}
 		if len(list) == 7 || t.Failed() {
 			return
 		}
