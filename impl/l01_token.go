@@ -107,13 +107,15 @@ func (s lineShape) written() string { return "|" + signedOff(s.off) }
 
 func within(n int, low int, high int) bool { return low <= n && n <= high }
 
-func printable(text string) bool {
-	for i := 0; i < len(text); i++ {
-		if text[i] < 32 || text[i] > 126 {
-			return false
+func printable(text string) bool { return firstUnprintable(text) < 0 }
+
+func firstUnprintable(text string) int {
+	for at, r := range text {
+		if r < 32 || r > 126 {
+			return at
 		}
 	}
-	return true
+	return -1
 }
 
 func signedOff(off int) string {
