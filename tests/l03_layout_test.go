@@ -409,18 +409,14 @@ func TestDeepestMarks(t *testing.T) {
 	checkLayout(t, 200, list, expectedOf(list))
 }
 
-func TestLayoutOfAllShortStreams(t *testing.T) {
-	alphabet := []impl.Token{
-		{Text: "ab"}, {Kind: impl.TokBlank, Width: 1}, {Kind: impl.TokBlank, Width: 2, Off: 1}, {Kind: impl.TokBegin, Off: 1}, {Kind: impl.TokBegin, Width: 1, Off: 2}, {Kind: impl.TokEnd}, {Kind: impl.TokLine, Off: -1},
-	}
+// eachShortStream shows every stream of at most so many tokens of an alphabet,
+// as long as the test has not failed.
+func eachShortStream(t *testing.T, alphabet []impl.Token, most int, show func(list []impl.Token)) {
+	t.Helper()
 	var grow func(list []impl.Token, open int)
 	grow = func(list []impl.Token, open int) {
 		if open == 0 {
-			stream := expectedOf(list)
-			for _, width := range []int{1, 2, 3, 4, 5, 6, 8, 200} {
-				checkLayout(t, width, list, stream)
-				checkPaper(t, width, list)
-			}
+			show(list)
 		}
 		for _, k := range alphabet {
 			next := open
@@ -430,12 +426,25 @@ func TestLayoutOfAllShortStreams(t *testing.T) {
 			case impl.TokEnd:
 				next--
 			}
-			if next >= 0 && len(list)+1+next <= 6 && !t.Failed() {
+			if next >= 0 && len(list)+1+next <= most && !t.Failed() {
 				grow(append(slices.Clone(list), k), next)
 			}
 		}
 	}
 	grow(nil, 0)
+}
+
+func TestLayoutOfAllShortStreams(t *testing.T) {
+	alphabet := []impl.Token{
+		{Text: "ab"}, {Kind: impl.TokBlank, Width: 1}, {Kind: impl.TokBlank, Width: 2, Off: 1}, {Kind: impl.TokBegin, Off: 1}, {Kind: impl.TokBegin, Width: 1, Off: 2}, {Kind: impl.TokEnd}, {Kind: impl.TokLine, Off: -1},
+	}
+	eachShortStream(t, alphabet, 6, func(list []impl.Token) {
+		stream := expectedOf(list)
+		for _, width := range []int{1, 2, 3, 4, 5, 6, 8, 200} {
+			checkLayout(t, width, list, stream)
+			checkPaper(t, width, list)
+		}
+	})
 }
 
 func TestLayoutOfRandomStreams(t *testing.T) {
@@ -614,8 +623,21 @@ func TestLayoutArgumentsAreNotWrittenInto(t *testing.T) {
 	}
 }
 
-// Numbers that are written into or appended to one answer show in no other and
-// in no argument.
+// checkNumbersAreNew writes into one answer and behind it, which must not show
+// in another, nor in one that is asked for later.
+func checkNumbersAreNew(t *testing.T, name string, ask func() []int) {
+	t.Helper()
+	kept := slices.Clone(ask())
+	one, two := ask(), ask()
+	for k := range one {
+		one[k] = -7
+	}
+	_ = append(one, -7)
+	if len(kept) == 0 || !slices.Equal(two, kept) || !slices.Equal(ask(), kept) {
+		t.Errorf("%s: two answers share memory", name)
+	}
+}
+
 func TestLayoutAnswersAreNewMemory(t *testing.T) {
 	want := tokens(t, `[2 "aa" _1 <5 "b" _1 "c" > _1 "dddd" >`)
 	list, spare := roomy(want)
@@ -623,15 +645,7 @@ func TestLayoutAnswersAreNewMemory(t *testing.T) {
 		"BreaksOf": func() []int { return impl.BreaksOf(4, list) },
 		"MarksAt":  func() []int { return impl.MarksAt(4, list, 5) },
 	} {
-		kept := slices.Clone(ask())
-		one, two := ask(), ask()
-		for k := range one {
-			one[k] = -7
-		}
-		_ = append(one, -7)
-		if len(kept) == 0 || !slices.Equal(two, kept) || !slices.Equal(ask(), kept) {
-			t.Errorf("%s: two answers share memory", name)
-		}
+		checkNumbersAreNew(t, name, ask)
 		checkUntouched(t, name, list, want, spare)
 	}
 }
