@@ -396,9 +396,9 @@ func TestFormatInAnyOrder(t *testing.T) {
 	}
 }
 
-// Side by side with other callers each call answers the same.
-func TestFormatSideBySide(t *testing.T) {
-	calls := formCalls()
+// checkSideBySide: side by side with other callers each call answers the same.
+func checkSideBySide(t *testing.T, calls []func() string) {
+	t.Helper()
 	want := []string{}
 	for _, call := range calls {
 		want = append(want, call())
@@ -410,10 +410,12 @@ func TestFormatSideBySide(t *testing.T) {
 				for k := range 4 * len(calls) {
 					at := (k*(2*caller+1) + caller) % len(calls)
 					if got := calls[at](); got != want[at] {
-						t.Fatalf("answer %d is %q, want %q", at, got, want[at])
+						t.Fatalf("answer %d is %q, want %q", at, textShown(got), textShown(want[at]))
 					}
 				}
 			})
 		}
 	})
 }
+
+func TestFormatSideBySide(t *testing.T) { checkSideBySide(t, formCalls()) }

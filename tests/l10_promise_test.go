@@ -285,9 +285,9 @@ func lineCalls(t *testing.T) []func() string {
 	return calls
 }
 
-// Whatever was asked ahead, each call is answered as it was.
-func TestLinesDoNotHangOnEarlierCalls(t *testing.T) {
-	calls := lineCalls(t)
+// checkAnyOrder: whatever was asked ahead, each call is answered as it was.
+func checkAnyOrder(t *testing.T, calls []func() string) {
+	t.Helper()
 	first := []string{}
 	for _, call := range calls {
 		first = append(first, call())
@@ -296,11 +296,13 @@ func TestLinesDoNotHangOnEarlierCalls(t *testing.T) {
 	for range 20 {
 		for _, k := range r.Perm(len(calls)) {
 			if got := calls[k](); got != first[k] {
-				t.Fatalf("call %d is answered %s, and was %s", k, got, first[k])
+				t.Fatalf("call %d is answered %s, and was %s", k, textShown(got), textShown(first[k]))
 			}
 		}
 	}
 }
+
+func TestLinesDoNotHangOnEarlierCalls(t *testing.T) { checkAnyOrder(t, lineCalls(t)) }
 
 func TestLineArgumentsAreNotWrittenInto(t *testing.T) {
 	for _, text := range []string{``, `"a"`, `[1 "a" _1 "b" > | "c"`, `[2 "aa" _1 <5 "b" _1 "c" > _1 "dddd" >`, `<0 "a"`, `"a" >`} {
